@@ -1,0 +1,40 @@
+package fault_test
+
+import (
+	"errors"
+	"fmt"
+	"testing"
+
+	"fairlead/api"
+	"fairlead/fault"
+)
+
+// P4.1 and P9.1: each number comes back from its fault, also with further errors about it.
+func TestNumberOfAFault(t *testing.T) {
+	for e := api.ErrArg; e <= api.ErrSyntax; e++ {
+		err := fault.Of("layer", e)
+		for range 3 {
+			if got := fault.Number(err); got != e {
+				t.Errorf("the number of %q is %d, want %d", err, got, e)
+			}
+			if !errors.Is(err, e) {
+				t.Errorf("%q is no error %d", err, e)
+			}
+			err = fmt.Errorf("further: %w", err)
+		}
+	}
+}
+
+func TestNumberWithoutAFault(t *testing.T) {
+	for _, err := range []error{nil, errors.New("layer: argument")} {
+		if got := fault.Number(err); got != api.OK {
+			t.Errorf("the number of %v is %d, want %d", err, got, api.OK)
+		}
+	}
+}
+
+func TestOfTellsTheLayer(t *testing.T) {
+	if got := fault.Of("layer", api.ErrArg).Error(); got != "layer: argument" {
+		t.Errorf("the fault tells %q", got)
+	}
+}
