@@ -1,5 +1,5 @@
 // Package fault wraps the errors' numbers on their way through the functions of
-// a layer, and finds them again: what frame and chap have in common.
+// a layer, and finds them again: what frame, chap and packet have in common.
 package fault
 
 import (

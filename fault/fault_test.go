@@ -9,7 +9,7 @@ import (
 	"fairlead/fault"
 )
 
-// P4.1 and P9.1: each number comes back from its fault, also with further errors about it.
+// P4.1, P9.1 and P11.1: each number comes back from its fault, also with further errors about it.
 func TestNumberOfAFault(t *testing.T) {
 	for e := api.ErrArg; e <= api.ErrSyntax; e++ {
 		err := fault.Of("layer", e)
