@@ -99,7 +99,7 @@ func (n *Nego) heed(p api.Packet, l []api.Option) (int, cause) {
 	c := cause{packet: p}
 	switch p.Code {
 	case api.ConfReq:
-		c.code, c.options = Judge(n.rules, l, n.naks >= n.tries)
+		c.code, c.options = n.judge(l, n.naks >= n.tries)
 		if c.code == api.ConfAck {
 			return api.ReqGood, c
 		}

@@ -5,6 +5,7 @@ import (
 	"slices"
 
 	"fairlead/api"
+	"fairlead/number"
 )
 
 // Rule is what this end allows of the options of a type.
@@ -127,7 +128,7 @@ func (r Rule) fits(data []byte) bool {
 	case Exact:
 		return bytes.Equal(data, r.Want)
 	case Range, Bits:
-		return r.holds(data) && r.near(number(data)) == number(data)
+		return r.holds(data) && r.near(number.Of(data)) == number.Of(data)
 	}
 	return false
 }
@@ -143,9 +144,9 @@ func (r Rule) offer(data []byte) ([]byte, bool) {
 		}
 		n := r.Hi
 		if r.holds(data) {
-			n = r.near(number(data))
+			n = r.near(number.Of(data))
 		}
-		offered = encoded(n, r.Len)
+		offered = number.Bytes(n, r.Len)
 		fallthrough
 	case Exact:
 		return bytes.Clone(offered), true
@@ -161,7 +162,7 @@ func (r Rule) heed(data []byte) ([]byte, bool) {
 		return bytes.Clone(data), true
 	case Range, Bits:
 		if r.holds(data) {
-			return encoded(r.near(number(data)), r.Len), true
+			return number.Bytes(r.near(number.Of(data)), r.Len), true
 		}
 	}
 	return nil, false
@@ -179,22 +180,4 @@ func (r Rule) near(n int) int {
 		return n & r.Hi
 	}
 	return min(max(n, r.Lo), r.Hi)
-}
-
-// number is what b encodes, the most significant byte first.
-func number(b []byte) int {
-	n := 0
-	for _, x := range b {
-		n = n<<8 | int(x)
-	}
-	return n
-}
-
-// encoded is n in size bytes, the most significant one first.
-func encoded(n, size int) []byte {
-	b := make([]byte, size)
-	for i := range b {
-		b[size-1-i] = byte(n >> (8 * i))
-	}
-	return b
 }

@@ -6,6 +6,7 @@ import (
 
 	"fairlead/api"
 	"fairlead/fault"
+	"fairlead/number"
 )
 
 // reader takes packets and options from the front of rest, which is the caller's.
@@ -56,7 +57,7 @@ func (r *reader) next(size, length int) (head, data []byte, err error) {
 	if head, err = r.take(size); err != nil {
 		return nil, nil, err
 	}
-	stated := number(head[size-length:])
+	stated := number.Of(head[size-length:])
 	if stated < size {
 		return nil, nil, fault.Of(layer, api.ErrForm)
 	}
@@ -74,13 +75,4 @@ func (r *reader) take(n int) ([]byte, error) {
 	b := r.rest[:n]
 	r.rest = r.rest[n:]
 	return b, nil
-}
-
-// number is what b encodes, the most significant byte first.
-func number(b []byte) int {
-	n := 0
-	for _, x := range b {
-		n = n<<8 | int(x)
-	}
-	return n
 }
