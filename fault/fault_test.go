@@ -38,3 +38,27 @@ func TestOfTellsTheLayer(t *testing.T) {
 		t.Errorf("the fault tells %q", got)
 	}
 }
+
+// P13.4 and P15.2: in the reason for which a packet is dropped both are found.
+func TestDrop(t *testing.T) {
+	for e := api.ErrArg; e <= api.ErrSyntax; e++ {
+		err := fault.Drop("layer", e)
+		for range 3 {
+			if !errors.Is(err, fault.Dropped) || !errors.Is(err, e) {
+				t.Errorf("%q: dropped %v, error %d %v", err, errors.Is(err, fault.Dropped), e, errors.Is(err, e))
+			}
+			if errors.Is(err, api.OK) || errors.Is(err, e%api.ErrSyntax+1) {
+				t.Errorf("%q has another reason, too", err)
+			}
+			err = fmt.Errorf("further: %w", err)
+		}
+	}
+	if got := fault.Drop("layer", api.ErrArg).Error(); got != "layer: dropped: argument" {
+		t.Errorf("the reason tells %q", got)
+	}
+	for _, err := range []error{nil, fault.Of("layer", api.ErrArg), errors.New("layer: dropped: argument")} {
+		if errors.Is(err, fault.Dropped) {
+			t.Errorf("%v: dropped", err)
+		}
+	}
+}

@@ -5,6 +5,7 @@ import (
 	"testing"
 
 	"fairlead/api"
+	"fairlead/fault"
 	"fairlead/packet"
 )
 
@@ -48,7 +49,7 @@ func TestReasons(t *testing.T) {
 			n.Do(api.Up)
 		}
 		l, err := n.accept(c.p)
-		if len(l) != 0 || !errors.Is(err, errDropped) || !errors.Is(err, c.want) {
+		if len(l) != 0 || !errors.Is(err, fault.Dropped) || !errors.Is(err, c.want) {
 			t.Errorf("P13.4: %s: %v, %v, want %v", c.what, l, err, c.want)
 		}
 		if want := "nego: dropped: " + c.want.Error(); err != nil && err.Error() != want {

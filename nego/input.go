@@ -4,6 +4,7 @@ import (
 	"errors"
 
 	"fairlead/api"
+	"fairlead/fault"
 	"fairlead/packet"
 )
 
@@ -15,21 +16,13 @@ type cause struct {
 	options []api.Option
 }
 
-var errDropped = errors.New("nego: dropped")
-
-// drop is errDropped, and why.
-type drop struct{ reason api.Errno }
-
-func (d *drop) Error() string   { return errDropped.Error() + ": " + d.reason.Error() }
-func (d *drop) Unwrap() []error { return []error{errDropped, d.reason} }
-
 // Input processes a packet that came in.
 func (n *Nego) Input(p api.Packet) Out {
 	if !n.made() {
 		return Out{}
 	}
 	l, err := n.accept(p)
-	if errors.Is(err, errDropped) {
+	if errors.Is(err, fault.Dropped) {
 		n.dropped++
 		return Out{}
 	}
@@ -42,7 +35,7 @@ func (n *Nego) Input(p api.Packet) Out {
 func (n *Nego) accept(p api.Packet) ([]api.Option, error) {
 	switch n.State() {
 	case api.Initial, api.Starting:
-		return nil, &drop{api.ErrState}
+		return nil, fault.Drop(layer, api.ErrState)
 	}
 	switch p.Code {
 	case api.ConfReq:
@@ -51,7 +44,7 @@ func (n *Nego) accept(p api.Packet) ([]api.Option, error) {
 		return n.asked.answered(p)
 	case api.CodeRej:
 		if len(p.Data) == 0 {
-			return nil, &drop{api.ErrShort}
+			return nil, fault.Drop(layer, api.ErrShort)
 		}
 	}
 	return nil, nil
@@ -60,7 +53,7 @@ func (n *Nego) accept(p api.Packet) ([]api.Option, error) {
 func split(data []byte) ([]api.Option, error) {
 	l, err := packet.Split(data)
 	if err != api.OK {
-		return nil, &drop{err}
+		return nil, fault.Drop(layer, err)
 	}
 	return l, nil
 }
@@ -68,7 +61,7 @@ func split(data []byte) ([]api.Option, error) {
 // answered is the options of an answer, or why it is none to what was asked.
 func (a asked) answered(p api.Packet) ([]api.Option, error) {
 	if !a.open || p.Id != a.id {
-		return nil, &drop{api.ErrOld}
+		return nil, fault.Drop(layer, api.ErrOld)
 	}
 	l, err := split(p.Data)
 	if err != nil {
@@ -76,9 +69,9 @@ func (a asked) answered(p api.Packet) ([]api.Option, error) {
 	}
 	switch {
 	case p.Code == api.ConfAck && !packet.Same(l, a.options):
-		return nil, &drop{api.ErrData}
+		return nil, fault.Drop(layer, api.ErrData)
 	case p.Code == api.ConfRej && !within(l, a.options):
-		return nil, &drop{api.ErrData}
+		return nil, fault.Drop(layer, api.ErrData)
 	}
 	return l, nil
 }
